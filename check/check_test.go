@@ -325,6 +325,26 @@ func TestCheckOfTreesThatAreNotRight(t *testing.T) {
 	}
 }
 
+// What is new, an input or a sum is neither handed on nor held against another value, whatever its type would be.
+func TestCheckOfValuesThatMayNotBeHandedOn(t *testing.T) {
+	p, _ := read(t, within("more(1, x, 1, y); if (i == j) { } while (x == u) { }"))
+	for _, v := range []api.Value{{Kind: api.Fresh, Type: "a"}, {Kind: api.Input}, {Kind: api.Plus, Left: api.Term{Name: "i"}}, {Kind: api.Minus}} {
+		for i := range 4 {
+			bad := twin(p)
+			bad.Procs[len(p.Procs)-1].Body[0].Args[i] = v
+			holdWrong(t, "an argument that may not be", bad, 0, api.ErrBad)
+		}
+		for i := 1; i <= 2; i++ {
+			left, right := twin(p), twin(p)
+			left.Procs[len(p.Procs)-1].Body[i].Cond.Left = v
+			right.Procs[len(p.Procs)-1].Body[i].Cond.Right = v
+			holdWrong(t, "a left side that may not be", left, 0, api.ErrBad)
+			holdWrong(t, "a right side that may not be", right, 0, api.ErrBad)
+		}
+	}
+	holdRight(t, "as it was", p)
+}
+
 // R1: lists that hold themselves, and the deepest ones, are not Right.
 func TestCheckOfListsWithoutEnd(t *testing.T) {
 	for _, kind := range []int{api.Skip, api.Set, api.If, api.While, api.Block, 99} {
