@@ -36,12 +36,10 @@ func (c *held) lead(field, to int) {
 	}
 }
 
-// places tells where each of as many fields leads.
-func (c *held) places(fields int) []int {
-	to := make([]int, fields)
+// places tells into a list where each of as many fields leads.
+func (c *held) places(to []int) {
 	copy(to, c.near[:])
 	for field, cell := range c.far {
 		to[field] = cell
 	}
-	return to
 }
