@@ -155,21 +155,25 @@ func TestNothingHandedInIsChanged(t *testing.T) {
 	}
 }
 
-// R3: what is answered is of its own memory: each may be written over without the other ones' knowing.
+// R3: what is answered is of its own memory: each may be written over without the other ones' knowing. So it is where nothing is done.
 func TestAnswersAreNew(t *testing.T) {
-	for i, a := range deeds() {
-		g, s := roomy(small), roomy(middle())
-		want, wantEvent := modelDo(small, middle(), a, i%2)
-		first, event := state.Do(g, s, a, i%2)
-		again, _ := state.Do(g, s, a, i%2)
-		scribble(first)
-		if !alike(s, middle()) || !alike(again, want) || event != wantEvent {
-			t.Errorf("%v: answers share memory: %v, %v, want %v", a, s, again, want)
-		}
-		scribble(s)
-		clear(g.Fields)
-		if !alike(again, want) {
-			t.Errorf("%v: what is handed in is kept: %v, want %v", a, again, want)
+	wrong := middle()
+	wrong.Cells[1].To[0] = 9
+	for _, from := range []api.State{middle(), wrong} {
+		for i, a := range deeds() {
+			g, s := roomy(small), roomy(from)
+			want, wantEvent := modelDo(small, from, a, i%2)
+			first, event := state.Do(g, s, a, i%2)
+			again, _ := state.Do(g, s, a, i%2)
+			scribble(first)
+			if !alike(s, from) || !alike(again, want) || event != wantEvent {
+				t.Errorf("%v: answers share memory: %v, %v, want %v", a, s, again, want)
+			}
+			scribble(s)
+			clear(g.Fields)
+			if !alike(again, want) {
+				t.Errorf("%v: what is handed in is kept: %v, want %v", a, again, want)
+			}
 		}
 	}
 }
@@ -185,21 +189,11 @@ func lists(s *api.State) []*[]int {
 
 // R3: no two lists of an answer share memory, nor spare room.
 func TestListsOfAnAnswerShareNothing(t *testing.T) {
-	for i, a := range deeds() {
-		s, _ := state.Do(small, middle(), a, i%2)
-		want, _ := modelDo(small, middle(), a, i%2)
-		for j := range lists(&s) {
-			s, _ := state.Do(small, middle(), a, i%2)
-			list := lists(&s)[j]
-			all := (*list)[:cap(*list)]
-			for k := range all {
-				all[k] = -7
-			}
-			*list = append(*list, -8)
-			*list = slices.Clone(*lists(&want)[j])
-			if !alike(s, want) {
-				t.Errorf("%v: list %d is of the memory of another one: %v, want %v", a, j, s, want)
-			}
+	wrong := middle()
+	wrong.Point = 4
+	for _, from := range []api.State{middle(), wrong} {
+		for i, a := range deeds() {
+			wantOwnLists(t, from, a, i%2)
 		}
 	}
 	b := state.Begin(api.Graph{Vars: 3, Ints: 4})
@@ -212,6 +206,25 @@ func TestListsOfAnAnswerShareNothing(t *testing.T) {
 	}
 	if !slices.Equal(b.Vars, []int{1, 1, 1, 1}) || !slices.Equal(b.Ints, []int{1, 1, 1, 1, 1}) {
 		t.Errorf("lists of Begin share memory: %v", b)
+	}
+}
+
+// wantOwnLists holds that each list of what Do tells of a state can be written over, and made longer, without another one's knowing.
+func wantOwnLists(t *testing.T, from api.State, a api.Action, in int) {
+	t.Helper()
+	want, _ := modelDo(small, from, a, in)
+	for j := range lists(&want) {
+		s, _ := state.Do(small, from, a, in)
+		list := lists(&s)[j]
+		all := (*list)[:cap(*list)]
+		for k := range all {
+			all[k] = -7
+		}
+		*list = append(*list, -8)
+		*list = slices.Clone(*lists(&want)[j])
+		if !alike(s, want) {
+			t.Errorf("%v: list %d is of the memory of another one: %v, want %v", a, j, s, want)
+		}
 	}
 }
 

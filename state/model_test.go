@@ -202,7 +202,7 @@ func (w *world) count(s api.State, a api.Action, in int) {
 // modelDo: the state then, and the event.
 func modelDo(g api.Graph, s api.State, a api.Action, in int) (api.State, api.Event) {
 	if !modelRight(g, s) || !graph.Has(g, a) {
-		return api.State{}, api.Event{}
+		return twin(s), api.Event{}
 	}
 	w := worldOf(s)
 	w.count(s, a, in)
@@ -268,8 +268,8 @@ func hold(t *testing.T, g api.Graph, s api.State, a api.Action, in int) (api.Sta
 	if !alike(got, want) || event != wantEvent {
 		t.Errorf("Do(%v, %v, %v, %d): %v, %v, want %v, %v", g, s, a, in, got, event, want, wantEvent)
 	}
-	if right && graph.Has(g, a) && !state.Right(g, got) {
-		t.Errorf("Do(%v, %v, %v, %d): %v is not right", g, s, a, in, got)
+	if right != state.Right(g, got) {
+		t.Errorf("Do(%v, %v, %v, %d): Right of %v is not %v", g, s, a, in, got, right)
 	}
 	if event.Kind == api.EvError && !state.Same(s, got) {
 		t.Errorf("Do(%v, %v, %v, %d): an error changes %v", g, s, a, in, got)

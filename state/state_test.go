@@ -129,13 +129,16 @@ func TestRight(t *testing.T) {
 	}
 }
 
-// wantNothingOfWrong holds that a state that is not right has no Leaks, and that all deeds make nothing of it.
+// wantNothingOfWrong holds that a state that is not right has no Leaks, and stays as it is at all deeds; one that is right stays right.
 func wantNothingOfWrong(t *testing.T, what string, right bool, s api.State) {
 	t.Helper()
 	for i, a := range deeds() {
 		then, event := state.Do(small, s, a, i%2)
-		if i < 17 && right == alike(then, api.State{}) || !right && event != (api.Event{}) {
+		if !right && (!alike(then, s) || event != (api.Event{})) {
 			t.Errorf("%s: Do of %v: %v, %v", what, a, then, event)
+		}
+		if state.Right(small, then) != right {
+			t.Errorf("%s: Right of what Do of %v tells is not %v", what, a, right)
 		}
 	}
 	if !right {
@@ -189,7 +192,7 @@ func TestManyFieldsAndCells(t *testing.T) {
 	if state.Right(g, s) || state.Leaks(g, s) != nil {
 		t.Errorf("cells without places are right")
 	}
-	wantDo(t, g, s, api.Action{Kind: api.DoNull}, 0, api.State{}, api.Event{})
+	wantDo(t, g, s, api.Action{Kind: api.DoNull}, 0, s, api.Event{})
 }
 
 // P15.1: Same, of states that differ in each field and each list alone.
@@ -472,7 +475,7 @@ func TestDoOthers(t *testing.T) {
 	}
 }
 
-// P15.3: actions that the graph does not have do nothing, and tell no state.
+// P15.3, P15.5: actions that the graph does not have do nothing: the state stays as it is, and so stays right.
 func TestDoWhatIsNotThere(t *testing.T) {
 	for _, a := range []api.Action{
 		{Kind: -1}, {Kind: 13}, {Kind: math.MinInt}, {Kind: math.MaxInt},
@@ -490,9 +493,17 @@ func TestDoWhatIsNotThere(t *testing.T) {
 		{Kind: api.DoTest, Op: 2}, {Kind: api.DoTest, L: api.Operand{Var: 2}}, {Kind: api.DoTest, R: api.Operand{Var: -2}},
 	} {
 		for _, in := range inputs {
-			wantDo(t, small, middle(), a, in, api.State{}, api.Event{})
+			wantDo(t, small, middle(), a, in, middle(), api.Event{})
+			if then, _ := state.Do(small, middle(), a, in); !state.Right(small, then) {
+				t.Errorf("Do of %v: %v is not right", a, then)
+			}
 		}
 	}
+	cell := api.Graph{Points: 1, Vars: 1, Structs: 1, Fields: []api.Field{{}}}
+	led := api.State{Vars: []int{1}, Cells: []api.Cell{alive(0, 0)}}
+	wantDo(t, cell, led, api.Action{Kind: api.DoNull, X: 1}, 0, led, api.Event{})
+	number := api.Graph{Points: 1, Ints: 1}
+	wantDo(t, number, state.Begin(number), api.Action{Y: 1}, 0, api.State{Ints: []int{0}}, api.Event{})
 }
 
 // P15.3: at most 24 variables are there, which are done with as others.
@@ -506,8 +517,8 @@ func TestDoTheLastVariables(t *testing.T) {
 		then = state.Begin(g)
 		then.Ints[23] = 6
 		wantDo(t, g, s, api.Action{Kind: api.DoTake, X: 23}, 6, then, api.Event{})
-		wantDo(t, g, s, api.Action{Kind: api.DoTake, X: 24}, 6, api.State{}, api.Event{})
-		wantDo(t, g, s, api.Action{Kind: api.DoNull, X: 24}, 6, api.State{}, api.Event{})
+		wantDo(t, g, s, api.Action{Kind: api.DoTake, X: 24}, 6, s, api.Event{})
+		wantDo(t, g, s, api.Action{Kind: api.DoNull, X: 24}, 6, s, api.Event{})
 	}
 }
 

@@ -7,6 +7,7 @@ import (
 	"testing"
 
 	"umbral/api"
+	"umbral/graph"
 	"umbral/state"
 )
 
@@ -306,6 +307,9 @@ func TestLongRows(t *testing.T) {
 				t.Fatalf("row %d", seed)
 			}
 			if !state.Right(g, then) {
+				t.Fatalf("row %d: %v does not stay right", seed, then)
+			}
+			if !graph.Has(g, a) {
 				seen["nothing"]++
 				continue
 			}
